@@ -1,0 +1,106 @@
+package tests
+
+import (
+	"math"
+	"slices"
+	"testing"
+)
+
+// turned returns a row from its last element to its first one.
+func turned[T any](row []T) []T {
+	back := slices.Clone(row)
+	slices.Reverse(back)
+	return back
+}
+
+// sumOf adds all numbers of a row.
+func sumOf(row []int) int {
+	sum := 0
+	for _, n := range row {
+		sum += n
+	}
+	return sum
+}
+
+// lowestTerms reports whether no number from 2 on divides both, by trying each.
+func lowestTerms(over, under int) bool {
+	for n := 2; n <= max(over, under); n++ {
+		if over%n == 0 && under%n == 0 {
+			return false
+		}
+	}
+	return true
+}
+
+// rowsOf returns all rows of so many numbers, each one of those given.
+func rowsOf(many int, numbers []int) [][]int {
+	rows := [][]int{{}}
+	for range many {
+		var longer [][]int
+		for _, row := range rows {
+			for _, n := range numbers {
+				longer = append(longer, append(slices.Clone(row), n))
+			}
+		}
+		rows = longer
+	}
+	return rows
+}
+
+// urnsWith returns all urns of 1..3 colours with these numbers of balls of a colour.
+func urnsWith(numbers ...int) [][]int {
+	var urns [][]int
+	for colours := 1; colours <= 3; colours++ {
+		urns = append(urns, rowsOf(colours, numbers)...)
+	}
+	return urns
+}
+
+// manyUrns returns each urn of one or two colours, and a choice of those of three.
+func manyUrns() [][]int {
+	var all []int
+	for n := 0; n <= 40; n++ {
+		all = append(all, n)
+	}
+	urns := append(rowsOf(1, all), rowsOf(2, all)...)
+	return append(urns, rowsOf(3, []int{0, 1, 2, 3, 6, 10, 19, 20, 21, 39, 40})...)
+}
+
+// noUrns returns rows that are no urns: too few or too many colours, or a number below 0 or above 40 at each place.
+func noUrns() [][]int {
+	rows := [][]int{nil, {}, {0, 0, 0, 0}, {1, 2, 3, 4}, {40, 40, 40, 40}, make([]int, 1000)}
+	for _, wrong := range []int{-1, 41, -40, 80, math.MinInt, math.MinInt + 1, math.MaxInt, math.MaxInt - 1} {
+		for colours := 1; colours <= 3; colours++ {
+			for place := range colours {
+				row := make([]int, colours)
+				row[place] = wrong
+				other := slices.Repeat([]int{5}, colours)
+				other[place] = wrong
+				rows = append(rows, row, other)
+			}
+		}
+	}
+	// Each two of these sum up to a number that an urn could have, or wrap around.
+	return append(rows, []int{-5, 10}, []int{41, -1}, []int{math.MaxInt, math.MaxInt, 2}, []int{math.MinInt, math.MinInt})
+}
+
+// extremes returns numbers that are no colour of any urn and no number of balls that may be put in.
+func extremes() []int {
+	return []int{math.MinInt, math.MinInt + 1, math.MinInt + 40, math.MinInt32, -1000, 1000, math.MaxInt32, math.MaxInt - 40, math.MaxInt - 1, math.MaxInt}
+}
+
+// spareTouched writes all over a row, its spare capacity too, so that memory it shares with another shows.
+func spareTouched(row []int) {
+	all := row[:cap(row)]
+	for i := range all {
+		all[i] = -77
+	}
+}
+
+// unwritten checks that a row, given with spare capacity of zeros, is as it was.
+func unwritten(t *testing.T, want, row []int) {
+	t.Helper()
+	if !slices.Equal(row, want) || slices.ContainsFunc(row[len(row):cap(row)], func(n int) bool { return n != 0 }) {
+		t.Fatal(want, row[:cap(row)])
+	}
+}
