@@ -26,11 +26,7 @@ func TotalOf(urn []int) int {
 	if !UrnOk(urn) {
 		return -1
 	}
-	total := 0
-	for _, balls := range urn {
-		total += balls
-	}
-	return total
+	return sumOf(urn)
 }
 
 // ChanceOf returns the chance of a colour, from 0 on, in one draw from an urn (UrnOk), as a fraction in least terms: its balls over all balls, as two numbers without a common divisor but 1, 0 and 1 for none; and true; 0, 0 and false for an urn without balls, for no such colour, and for others.
@@ -67,6 +63,15 @@ func PouredUrn(a []int, b []int) ([]int, bool) {
 		return nil, false
 	}
 	return poured, true
+}
+
+// sumOf adds all numbers of a row.
+func sumOf(row []int) int {
+	sum := 0
+	for _, number := range row {
+		sum += number
+	}
+	return sum
 }
 
 // hasColour reports whether a colour is one of those of an urn.

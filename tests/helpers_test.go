@@ -89,6 +89,74 @@ func extremes() []int {
 	return []int{math.MinInt, math.MinInt + 1, math.MinInt + 40, math.MinInt32, -1000, 1000, math.MaxInt32, math.MaxInt - 40, math.MaxInt - 1, math.MaxInt}
 }
 
+// numbersTo returns the numbers from 0 up to one less than the given one.
+func numbersTo(end int) []int {
+	var row []int
+	for n := range end {
+		row = append(row, n)
+	}
+	return row
+}
+
+// wordsOf returns all words of so many colours and draws.
+func wordsOf(colours, draws int) [][]int {
+	return rowsOf(draws, numbersTo(colours))
+}
+
+// allWords returns all words of so many colours with at most 6 draws.
+func allWords(colours int) [][]int {
+	var words [][]int
+	for draws := 0; draws <= 6; draws++ {
+		words = append(words, wordsOf(colours, draws)...)
+	}
+	return words
+}
+
+// noWords returns rows that are no words of so many colours: too long, or with a colour below 0 or past the last one at each place.
+func noWords(colours int) [][]int {
+	rows := [][]int{make([]int, 7), make([]int, 8), make([]int, 1000), {-1, 1}, {colours, 0, -colours}}
+	for _, wrong := range append(extremes(), -colours, -1, colours, colours+1) {
+		for draws := 1; draws <= 6; draws++ {
+			for place := range draws {
+				row := make([]int, draws)
+				row[place] = wrong
+				rows = append(rows, row)
+			}
+		}
+	}
+	return rows
+}
+
+// countRows returns all rows of counts of so many colours, together at most 6.
+func countRows(colours int) [][]int {
+	return slices.DeleteFunc(rowsOf(colours, numbersTo(7)), func(row []int) bool { return sumOf(row) > 6 })
+}
+
+// noCountRows returns rows of so many numbers that are no counts: with a number below 0, or together more than 6.
+func noCountRows(colours int) [][]int {
+	rows := slices.DeleteFunc(rowsOf(colours, []int{0, 1, 2, 3, 4, 5, 6, 7}), func(row []int) bool { return sumOf(row) <= 6 })
+	wrongs := append(extremes(), -7, -6, -1, 7, 8)
+	for place := range colours {
+		for _, wrong := range wrongs {
+			for _, other := range []int{0, 1, 3, 6} {
+				row := slices.Repeat([]int{other}, colours)
+				row[place] = wrong
+				rows = append(rows, row)
+			}
+		}
+	}
+	// The sums of some of these wrap around to numbers that are in range.
+	big := []int{math.MinInt, math.MinInt + 1, -1, 0, 2, math.MaxInt / 2, math.MaxInt/2 + 1, math.MaxInt - 1, math.MaxInt}
+	return append(rows, slices.DeleteFunc(rowsOf(colours, big), func(row []int) bool {
+		return !slices.ContainsFunc(row, func(n int) bool { return n < 0 || n > 2 })
+	})...)
+}
+
+// wrongColours returns numbers of colours that there may not be.
+func wrongColours() []int {
+	return append(extremes(), -3, -1, 0, 4, 5, 6, 7)
+}
+
 // spareTouched writes all over a row, its spare capacity too, so that memory it shares with another shows.
 func spareTouched(row []int) {
 	all := row[:cap(row)]
