@@ -157,6 +157,84 @@ func wrongColours() []int {
 	return append(extremes(), -3, -1, 0, 4, 5, 6, 7)
 }
 
+// withoutWords visits urns with words of which one at least is none.
+func withoutWords(visit func(urn, word []int)) {
+	for _, urn := range urnsWith(0, 1, 40) {
+		for _, row := range noWords(len(urn)) {
+			visit(urn, row)
+		}
+	}
+	for _, row := range noUrns() {
+		for _, word := range [][]int{nil, {}, {0}, {0, 0}, {1}, {2, 1}, {3}, {-1}, make([]int, 6), make([]int, 7)} {
+			visit(row, word)
+		}
+	}
+	// What is wrong is checked first, also behind a colour that has run out.
+	for _, word := range [][]int{{0, 0, 2}, {0, -1}, {0, math.MinInt}, {0, math.MaxInt}, make([]int, 7)} {
+		visit([]int{0, 1}, word)
+	}
+}
+
+// withoutDraws visits urns with numbers of draws of which one at least is none.
+func withoutDraws(visit func(urn []int, many int)) {
+	for _, urn := range urnsWith(0, 1, 7, 40) {
+		for _, many := range append(extremes(), -6, -1, 7, 8) {
+			visit(urn, many)
+		}
+	}
+	for _, row := range noUrns() {
+		for _, many := range append(extremes(), -1, 0, 1, 2, 6, 7) {
+			visit(row, many)
+		}
+	}
+}
+
+// withoutCounts visits urns with counts of which one at least is none, or which are not of as many colours.
+func withoutCounts(visit func(urn, counts []int)) {
+	for _, urn := range urnsWith(0, 1, 40) {
+		for _, row := range noCountRows(len(urn)) {
+			visit(urn, row)
+		}
+		for length := 0; length <= 5; length++ {
+			if length != len(urn) {
+				visit(urn, make([]int, length))
+				visit(urn, slices.Repeat([]int{1}, length))
+			}
+		}
+		visit(urn, nil)
+	}
+	for _, row := range noUrns() {
+		for length := 0; length <= 5; length++ {
+			visit(row, make([]int, length))
+			visit(row, slices.Repeat([]int{1}, length))
+			visit(row, slices.Repeat([]int{math.MaxInt}, length))
+		}
+		visit(row, nil)
+		visit(row, row)
+	}
+}
+
+// allTogether checks that the ways of all words of a length, and those of all counts of so many draws, are together all ways.
+func allTogether(t *testing.T, wordWays, countWays func(urn, row []int) int, allWays func(urn []int, many int) int) {
+	t.Helper()
+	for _, urn := range append(urnsWith(0, 1, 3, 6), []int{40, 40, 40}, []int{2, 5, 1}, []int{17, 0, 40}) {
+		for draws := 0; draws <= 6; draws++ {
+			byWords, byCounts := 0, 0
+			for _, word := range wordsOf(len(urn), draws) {
+				byWords += wordWays(urn, word)
+			}
+			for _, counts := range countRows(len(urn)) {
+				if sumOf(counts) == draws {
+					byCounts += countWays(urn, counts)
+				}
+			}
+			if all := allWays(urn, draws); all != byWords || all != byCounts {
+				t.Fatal(urn, draws, all, byWords, byCounts)
+			}
+		}
+	}
+}
+
 // spareTouched writes all over a row, its spare capacity too, so that memory it shares with another shows.
 func spareTouched(row []int) {
 	all := row[:cap(row)]

@@ -243,29 +243,11 @@ func TestWordsShareTheWaysOfTheirCounts(t *testing.T) {
 }
 
 func TestNoWordWays(t *testing.T) {
-	for _, urn := range urnsWith(0, 1, 40) {
-		for _, row := range noWords(len(urn)) {
-			if got := impl.WordWays(urn, row); got != -1 {
-				t.Error(urn, row, got)
-			}
+	withoutWords(func(urn, word []int) {
+		if got := impl.WordWays(urn, word); got != -1 {
+			t.Error(urn, word, got)
 		}
-	}
-	for _, row := range noUrns() {
-		for _, word := range [][]int{nil, {}, {0}, {0, 0}, {1}, {2, 1}, {3}, {-1}, make([]int, 6), make([]int, 7)} {
-			if got := impl.WordWays(row, word); got != -1 {
-				t.Error(row, word, got)
-			}
-		}
-	}
-}
-
-// What is wrong is checked first, also behind a colour that has run out.
-func TestNoWaysBehindNoBalls(t *testing.T) {
-	for _, word := range [][]int{{0, 0, 2}, {0, -1}, {0, math.MinInt}, {0, math.MaxInt}, make([]int, 7)} {
-		if got := impl.WordWays([]int{0, 1}, word); got != -1 {
-			t.Error(word, got)
-		}
-	}
+	})
 }
 
 // Promise 10.
@@ -289,23 +271,7 @@ func TestAllWays(t *testing.T) {
 }
 
 func TestAllWordsHaveTogetherAllWays(t *testing.T) {
-	for _, urn := range append(urnsWith(0, 1, 3, 6), []int{40, 40, 40}, []int{2, 5, 1}, []int{17, 0, 40}) {
-		for draws := 0; draws <= 6; draws++ {
-			sum := 0
-			for _, word := range wordsOf(len(urn), draws) {
-				sum += impl.WordWays(urn, word)
-			}
-			byCounts := 0
-			for _, counts := range countRows(len(urn)) {
-				if sumOf(counts) == draws {
-					byCounts += impl.CountWays(urn, counts)
-				}
-			}
-			if all := impl.AllWays(urn, draws); all != sum || all != byCounts {
-				t.Fatal(urn, draws, all, sum, byCounts)
-			}
-		}
-	}
+	allTogether(t, impl.WordWays, impl.CountWays, impl.AllWays)
 }
 
 func TestAllWaysAreLessByOneBallEachDraw(t *testing.T) {
@@ -320,20 +286,11 @@ func TestAllWaysAreLessByOneBallEachDraw(t *testing.T) {
 }
 
 func TestNoAllWays(t *testing.T) {
-	for _, urn := range urnsWith(0, 1, 7, 40) {
-		for _, many := range append(extremes(), -6, -1, 7, 8) {
-			if got := impl.AllWays(urn, many); got != -1 {
-				t.Error(urn, many, got)
-			}
+	withoutDraws(func(urn []int, many int) {
+		if got := impl.AllWays(urn, many); got != -1 {
+			t.Error(urn, many, got)
 		}
-	}
-	for _, row := range noUrns() {
-		for _, many := range append(extremes(), -1, 0, 1, 2, 6, 7) {
-			if got := impl.AllWays(row, many); got != -1 {
-				t.Error(row, many, got)
-			}
-		}
-	}
+	})
 }
 
 // Promise 11.
@@ -539,35 +496,11 @@ func fallingBalls(urn, counts []int) int {
 }
 
 func TestNoCountWays(t *testing.T) {
-	urns := urnsWith(0, 1, 40)
-	for _, urn := range urns {
-		for _, row := range noCountRows(len(urn)) {
-			noCountWays(t, urn, row)
+	withoutCounts(func(urn, counts []int) {
+		if got := impl.CountWays(urn, counts); got != -1 {
+			t.Error(urn, counts, got)
 		}
-		for length := 0; length <= 5; length++ {
-			if length != len(urn) {
-				noCountWays(t, urn, make([]int, length))
-				noCountWays(t, urn, slices.Repeat([]int{1}, length))
-			}
-		}
-		noCountWays(t, urn, nil)
-	}
-	for _, row := range noUrns() {
-		for length := 0; length <= 5; length++ {
-			noCountWays(t, row, make([]int, length))
-			noCountWays(t, row, slices.Repeat([]int{1}, length))
-			noCountWays(t, row, slices.Repeat([]int{math.MaxInt}, length))
-		}
-		noCountWays(t, row, nil)
-		noCountWays(t, row, row)
-	}
-}
-
-func noCountWays(t *testing.T, urn, counts []int) {
-	t.Helper()
-	if got := impl.CountWays(urn, counts); got != -1 {
-		t.Error(urn, counts, got)
-	}
+	})
 }
 
 // Promise 14.
