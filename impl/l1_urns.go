@@ -58,7 +58,7 @@ func PouredUrn(a []int, b []int) ([]int, bool) {
 	if !UrnOk(a) || !UrnOk(b) || len(a) != len(b) {
 		return nil, false
 	}
-	poured := joinedRows(a, b, func(x, y int) int { return x + y })
+	poured := addedRows(a, b)
 	if !UrnOk(poured) {
 		return nil, false
 	}
@@ -91,6 +91,11 @@ func greatestDivisor(a, b int) int {
 		a, b = b, a%b
 	}
 	return a
+}
+
+// addedRows returns the row of the sums of both numbers of each place; both rows are as long.
+func addedRows(a, b []int) []int {
+	return joinedRows(a, b, func(x, y int) int { return x + y })
 }
 
 // joinedRows returns the row of both elements of each place, joined to one; both rows are as long.

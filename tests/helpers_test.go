@@ -214,6 +214,139 @@ func withoutCounts(visit func(urn, counts []int)) {
 	}
 }
 
+// plainRule returns the rule of so many colours with one number for the colour of each row itself, and one for all others.
+func plainRule(colours, own, others int) [][]int {
+	rule := make([][]int, colours)
+	for colour := range rule {
+		rule[colour] = slices.Repeat([]int{others}, colours)
+		rule[colour][colour] = own
+	}
+	return rule
+}
+
+// rulesOf returns all rules of so many colours with some of these numbers for the colour of each row itself, and of those for all others.
+func rulesOf(colours int, own, others []int) [][][]int {
+	rules := [][][]int{{}}
+	for colour := range colours {
+		var longer [][][]int
+		for _, rule := range rules {
+			for _, number := range own {
+				for _, row := range rowsOf(colours-1, others) {
+					longer = append(longer, append(slices.Clone(rule), slices.Insert(slices.Clone(row), colour, number)))
+				}
+			}
+		}
+		rules = longer
+	}
+	return rules
+}
+
+// someRules returns a choice of rules of so many colours, even ones and others, among them those with the same number everywhere.
+func someRules(colours int) [][][]int {
+	rules := [][][]int{plainRule(colours, -1, 0), plainRule(colours, -1, 3), plainRule(colours, 0, 0), plainRule(colours, 0, 1), plainRule(colours, 1, 0), plainRule(colours, 2, 2), plainRule(colours, 3, 0), plainRule(colours, 3, 3)}
+	switch colours {
+	case 2:
+		rules = append(rules, [][]int{{-1, 1}, {1, -1}}, [][]int{{-1, 3}, {2, 0}}, [][]int{{1, 0}, {0, 2}}, [][]int{{-1, 0}, {0, 0}}, [][]int{{0, 3}, {1, 2}}, [][]int{{-1, 2}, {0, 3}})
+	case 3:
+		rules = append(rules, [][]int{{-1, 1, 0}, {0, -1, 1}, {1, 0, -1}}, [][]int{{-1, 2, 1}, {0, 2, 0}, {1, 1, 0}}, [][]int{{2, 0, 1}, {3, 0, 0}, {1, 1, 1}}, [][]int{{-1, 0, 2}, {0, 3, 0}, {1, 0, 0}}, [][]int{{0, 1, 2}, {0, 0, 0}, {3, 2, -1}})
+	}
+	return rules
+}
+
+// noStarts returns rows that are no urns, and urns that hold more than 10 balls of a colour, at each place.
+func noStarts() [][]int {
+	rows := noUrns()
+	for _, many := range []int{11, 12, 39, 40} {
+		for colours := 1; colours <= 3; colours++ {
+			rows = append(rows, slices.Repeat([]int{many}, colours))
+			for place := range colours {
+				row := slices.Repeat([]int{10}, colours)
+				row[place] = many
+				other := make([]int, colours)
+				other[place] = many
+				rows = append(rows, row, other)
+			}
+		}
+	}
+	return rows
+}
+
+// noRules returns what is no rule of so many colours.
+func noRules(colours int) [][][]int {
+	return slices.Concat(rulesOfWrongLength(colours), rulesWithOneWrong(colours), rulesThatWrap(colours))
+}
+
+// rulesOfWrongLength returns rules with too few or too many rows, or with a row that is nil, too short or too long.
+func rulesOfWrongLength(colours int) [][][]int {
+	rules := [][][]int{nil, {}, make([][]int, colours), slices.Repeat([][]int{make([]int, colours)}, 1000)}
+	for length := range 6 {
+		if length == colours {
+			continue
+		}
+		rules = append(rules, plainRule(length, 0, 0), plainRule(length, -1, 1), slices.Repeat([][]int{make([]int, colours)}, length))
+		for place := range colours {
+			rule := plainRule(colours, 1, 0)
+			rule[place] = make([]int, length)
+			rules = append(rules, rule)
+		}
+	}
+	for place := range colours {
+		without, long := plainRule(colours, 0, 1), plainRule(colours, 0, 1)
+		without[place], long[place] = nil, make([]int, 1000)
+		rules = append(rules, without, long)
+	}
+	return rules
+}
+
+// rulesWithOneWrong returns rules with a number that may not be there at each place, -1 beside the colour of the row among them.
+func rulesWithOneWrong(colours int) [][][]int {
+	var rules [][][]int
+	for place := range colours * colours {
+		row, column := place/colours, place%colours
+		wrongs := append(extremes(), -3, -2, 4, 5, 40)
+		if row != column {
+			wrongs = append(wrongs, -1)
+		}
+		for _, wrong := range wrongs {
+			for _, rule := range [][][]int{plainRule(colours, 0, 0), plainRule(colours, -1, 0), plainRule(colours, 3, 3)} {
+				rule[row][column] = wrong
+				rules = append(rules, rule)
+			}
+		}
+	}
+	return rules
+}
+
+// rulesThatWrap returns rules whose numbers have sums or products that wrap around, to ones that are in range among them.
+func rulesThatWrap(colours int) [][][]int {
+	var rules [][][]int
+	for _, row := range rowsOf(colours, []int{math.MinInt, -1, 2, math.MaxInt/2 + 1, math.MaxInt}) {
+		if slices.ContainsFunc(row, func(n int) bool { return n < -1 || n > 3 }) {
+			last := plainRule(colours, 0, 0)
+			last[colours-1] = row
+			rules = append(rules, slices.Repeat([][]int{row}, colours), last)
+		}
+	}
+	return rules
+}
+
+// withoutRules visits urns with rules of which one at least may not be used, or which are not of as many colours.
+func withoutRules(visit func(urn []int, rule [][]int)) {
+	for _, urn := range urnsWith(0, 1, 10) {
+		for _, rule := range noRules(len(urn)) {
+			visit(urn, rule)
+		}
+	}
+	for _, row := range noStarts() {
+		for colours := range 6 {
+			visit(row, plainRule(colours, -1, 0))
+			visit(row, plainRule(colours, 3, 3))
+		}
+		visit(row, nil)
+		visit(row, slices.Repeat([][]int{row}, len(row)))
+	}
+}
+
 // allTogether checks that the ways of all words of a length, and those of all counts of so many draws, are together all ways.
 func allTogether(t *testing.T, wordWays, countWays func(urn, row []int) int, allWays func(urn []int, many int) int) {
 	t.Helper()
