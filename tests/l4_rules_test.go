@@ -548,16 +548,22 @@ func TestWhatIsDrawnIsWhatThereIs(t *testing.T) {
 	}
 }
 
-func ballsBehind(t *testing.T, urn []int, rule [][]int, draws int) {
-	t.Helper()
-	want, together := make([]int, len(urn)), 0
+// sumsOverWords returns for each colour its balls behind each word of so many draws, times the ways of the word, word by word.
+func sumsOverWords(urn []int, rule [][]int, draws int) []int {
+	sums := make([]int, len(urn))
 	for _, word := range wordsOf(len(urn), draws) {
 		ways := impl.RuleWays(urn, rule, word)
 		behind, _ := impl.AfterWord(urn, rule, word)
 		for colour, balls := range behind {
-			want[colour] += ways * balls
+			sums[colour] += ways * balls
 		}
 	}
+	return sums
+}
+
+func ballsBehind(t *testing.T, urn []int, rule [][]int, draws int) {
+	t.Helper()
+	want, together := sumsOverWords(urn, rule, draws), 0
 	for colour := range urn {
 		got := impl.BallSum(urn, rule, draws, colour)
 		if got != want[colour] || draws == 0 && got != urn[colour] {
