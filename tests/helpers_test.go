@@ -376,6 +376,22 @@ func spareTouched(row []int) {
 	}
 }
 
+// newEachTime checks that each result is new memory: writing all over one leaves another one, and the next one, as it is.
+func newEachTime(t *testing.T, result func() []int) {
+	t.Helper()
+	touched, other := result(), result()
+	want := slices.Clone(other)
+	spareTouched(touched)
+	if next := result(); !slices.Equal(other, want) || !slices.Equal(next, want) {
+		t.Fatal(want, other, next)
+	}
+}
+
+// roomy returns a row with spare capacity of zeros.
+func roomy(row []int) []int {
+	return append(make([]int, 0, len(row)+8), row...)
+}
+
 // unwritten checks that a row, given with spare capacity of zeros, is as it was.
 func unwritten(t *testing.T, want, row []int) {
 	t.Helper()

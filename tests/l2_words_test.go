@@ -600,8 +600,8 @@ func TestWordArgumentsAreNotWritten(t *testing.T) {
 	rows := append(urnsWith(0, 2, 40), noUrns()...)
 	for _, row := range rows {
 		for _, other := range [][]int{nil, {0}, {0, 0, 0}, {2, 1, 2}, {1, 0}, {2, 2, 2}, {7}, {-1, 2}} {
-			urn := append(make([]int, 0, len(row)+8), row...)
-			word := append(make([]int, 0, len(other)+8), other...)
+			urn := roomy(row)
+			word := roomy(other)
 			for colours := 0; colours <= 4; colours++ {
 				impl.WordOk(colours, word)
 				impl.CountsOf(colours, word)

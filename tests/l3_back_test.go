@@ -259,8 +259,8 @@ func TestNothingSameTwice(t *testing.T) {
 func TestBackArgumentsAreNotWritten(t *testing.T) {
 	for _, row := range append(urnsWith(0, 2, 40), noUrns()...) {
 		for _, other := range [][]int{nil, {0}, {0, 0, 0}, {2, 1, 2}, {1, 0}, {2, 2, 2}, {7}, {-1, 2}} {
-			urn := append(make([]int, 0, len(row)+8), row...)
-			word := append(make([]int, 0, len(other)+8), other...)
+			urn := roomy(row)
+			word := roomy(other)
 			impl.BackWays(urn, word)
 			impl.BackCounts(urn, word)
 			impl.BackAll(urn, 3)

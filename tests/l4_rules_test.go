@@ -670,11 +670,11 @@ func TestWordsByRulesAreDrawnInParts(t *testing.T) {
 
 // roomyRule returns a rule of which each row, and all rows, have spare capacity.
 func roomyRule(rule [][]int) [][]int {
-	roomy := make([][]int, 0, len(rule)+4)
+	copied := make([][]int, 0, len(rule)+4)
 	for _, row := range rule {
-		roomy = append(roomy, append(make([]int, 0, len(row)+8), row...))
+		copied = append(copied, roomy(row))
 	}
-	return roomy
+	return copied
 }
 
 // unwrittenRule checks that a rule, made by roomyRule, is as it was.
@@ -722,8 +722,8 @@ func TestRuleArgumentsAreNotWritten(t *testing.T) {
 	for _, rule := range rules {
 		for _, row := range append(urnsWith(0, 2, 10), nil, []int{11, 1}, []int{-1, math.MaxInt}) {
 			for _, word := range [][]int{nil, {0}, {0, 1, 0}, {2, 2, 2}, {1, -1}} {
-				urn := append(make([]int, 0, len(row)+8), row...)
-				drawn, given := append(make([]int, 0, len(word)+8), word...), roomyRule(rule)
+				urn := roomy(row)
+				drawn, given := roomy(word), roomyRule(rule)
 				impl.RuleOk(len(rule), given)
 				impl.StartOk(urn)
 				impl.AfterWord(urn, given, drawn)

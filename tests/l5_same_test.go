@@ -531,8 +531,8 @@ func TestSameArgumentsAreNotWritten(t *testing.T) {
 	for _, row := range append(urnsWith(0, 2, 10, 11), noUrns()...) {
 		for _, other := range [][]int{nil, {0}, {6}, {7}, {2, 1}, {1, -1}, {2, 2, 2}, {2, 0, 1}, {3, 3, 3}, {math.MaxInt, 1}} {
 			for _, step := range []int{-2, -1, 0, 3, 4} {
-				urn := append(make([]int, 0, len(row)+8), row...)
-				counts := append(make([]int, 0, len(other)+8), other...)
+				urn := roomy(row)
+				counts := roomy(other)
 				impl.SameCounts(urn, step, counts)
 				impl.ShareSum(urn, step, 3, 0)
 				unwritten(t, row, urn)
