@@ -22,6 +22,33 @@ func sumOf(row []int) int {
 	return sum
 }
 
+// sumByNumber adds all ways, each times its number.
+func sumByNumber(ways []int) int {
+	sum := 0
+	for number, way := range ways {
+		sum += number * way
+	}
+	return sum
+}
+
+// factorial returns the product of all numbers from 1 up to one.
+func factorial(number int) int {
+	product := 1
+	for n := 2; n <= number; n++ {
+		product *= n
+	}
+	return product
+}
+
+// power returns a number times itself so many times, 1 for none.
+func power(number, many int) int {
+	product := 1
+	for range many {
+		product *= number
+	}
+	return product
+}
+
 // lowestTerms reports whether no number from 2 on divides both, by trying each.
 func lowestTerms(over, under int) bool {
 	for n := 2; n <= max(over, under); n++ {

@@ -80,27 +80,9 @@ func waysOfBoxes(many int, word []int) []int {
 	return ways
 }
 
-// sumByNumber adds all ways, each times its number.
-func sumByNumber(ways []int) int {
-	sum := 0
-	for number, way := range ways {
-		sum += number * way
-	}
-	return sum
-}
-
 // isFraction reports whether two numbers from 0 on are a fraction in least terms, 0 and 1 for none.
 func isFraction(gotOver, gotUnder, over, under int) bool {
 	return gotOver >= 0 && gotUnder > 0 && gotOver*under == over*gotUnder && lowestTerms(gotOver, gotUnder)
-}
-
-// factorial returns the product of all numbers from 1 up to one.
-func factorial(number int) int {
-	product := 1
-	for n := 2; n <= number; n++ {
-		product *= n
-	}
-	return product
 }
 
 // Promise 35.

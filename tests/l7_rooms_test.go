@@ -139,15 +139,6 @@ func leanOf(row []int) int {
 	return 2*sumByNumber(row) - balls*sumOf(row)
 }
 
-// power returns a number times itself so many times, 1 for none.
-func power(number, many int) int {
-	product := 1
-	for range many {
-		product *= number
-	}
-	return product
-}
-
 // Promise 42.
 
 func TestRoomRows(t *testing.T) {
