@@ -59,14 +59,14 @@ func lowestTerms(over, under int) bool {
 	return true
 }
 
-// rowsOf returns all rows of so many numbers, each one of those given.
-func rowsOf(many int, numbers []int) [][]int {
-	rows := [][]int{{}}
+// rowsOf returns all rows of so many elements, each one of those given.
+func rowsOf[T any](many int, elements []T) [][]T {
+	rows := [][]T{{}}
 	for range many {
-		var longer [][]int
+		var longer [][]T
 		for _, row := range rows {
-			for _, n := range numbers {
-				longer = append(longer, append(slices.Clone(row), n))
+			for _, element := range elements {
+				longer = append(longer, append(slices.Clone(row), element))
 			}
 		}
 		rows = longer
@@ -397,32 +397,44 @@ func allTogether(t *testing.T, wordWays, countWays func(urn, row []int) int, all
 
 // spareTouched writes all over a row, its spare capacity too, so that memory it shares with another shows.
 func spareTouched(row []int) {
+	touchedWith(row, -77)
+}
+
+// touchedWith writes an element all over a row, its spare capacity too.
+func touchedWith[T any](row []T, element T) {
 	all := row[:cap(row)]
 	for i := range all {
-		all[i] = -77
+		all[i] = element
 	}
 }
 
 // newEachTime checks that each result is new memory: writing all over one leaves another one, and the next one, as it is.
 func newEachTime(t *testing.T, result func() []int) {
 	t.Helper()
+	newEachTimeOf(t, -77, result)
+}
+
+// newEachTimeOf checks that each result is new memory, by an element that is in none of them.
+func newEachTimeOf[T comparable](t *testing.T, element T, result func() []T) {
+	t.Helper()
 	touched, other := result(), result()
 	want := slices.Clone(other)
-	spareTouched(touched)
+	touchedWith(touched, element)
 	if next := result(); !slices.Equal(other, want) || !slices.Equal(next, want) {
 		t.Fatal(want, other, next)
 	}
 }
 
-// roomy returns a row with spare capacity of zeros.
-func roomy(row []int) []int {
-	return append(make([]int, 0, len(row)+8), row...)
+// roomy returns a row with spare capacity of zero values.
+func roomy[T any](row []T) []T {
+	return append(make([]T, 0, len(row)+8), row...)
 }
 
-// unwritten checks that a row, given with spare capacity of zeros, is as it was.
-func unwritten(t *testing.T, want, row []int) {
+// unwritten checks that a row, given with spare capacity of zero values, is as it was.
+func unwritten[T comparable](t *testing.T, want, row []T) {
 	t.Helper()
-	if !slices.Equal(row, want) || slices.ContainsFunc(row[len(row):cap(row)], func(n int) bool { return n != 0 }) {
+	var zero T
+	if !slices.Equal(row, want) || slices.ContainsFunc(row[len(row):cap(row)], func(element T) bool { return element != zero }) {
 		t.Fatal(want, row[:cap(row)])
 	}
 }
