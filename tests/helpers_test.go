@@ -184,6 +184,23 @@ func wrongColours() []int {
 	return append(extremes(), -3, -1, 0, 4, 5, 6, 7)
 }
 
+// wrongAndRight returns numbers from very small to very large ones, with all that balls, boxes, groups, draws and runs may have among them.
+func wrongAndRight() []int {
+	numbers := append(extremes(), -40, -8, -7, -6, -2, -1, 12, 14, 40, math.MinInt/2, math.MinInt+7, math.MaxInt/2, math.MaxInt/2+1, math.MaxInt-7)
+	return append(numbers, numbersTo(10)...)
+}
+
+// withoutPairsOf visits all pairs of numbers that are not among those given.
+func withoutPairsOf(with func(visit func(a, b int)), visit func(a, b int)) {
+	may := map[[2]int]bool{}
+	with(func(a, b int) { may[[2]int{a, b}] = true })
+	for _, row := range rowsOf(2, wrongAndRight()) {
+		if !may[[2]int(row)] {
+			visit(row[0], row[1])
+		}
+	}
+}
+
 // withoutWords visits urns with words of which one at least is none.
 func withoutWords(visit func(urn, word []int)) {
 	for _, urn := range urnsWith(0, 1, 40) {

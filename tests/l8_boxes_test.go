@@ -34,23 +34,6 @@ func withGroups(visit func(balls, groups int)) {
 	}
 }
 
-// wrongAndRight returns numbers from very small to very large ones, with all that balls, boxes and groups may have among them.
-func wrongAndRight() []int {
-	numbers := append(extremes(), -40, -8, -7, -6, -2, -1, 12, 14, 40, math.MinInt/2, math.MinInt+7, math.MaxInt/2, math.MaxInt/2+1, math.MaxInt-7)
-	return append(numbers, numbersTo(10)...)
-}
-
-// withoutPairsOf visits all pairs of numbers that are not among those given.
-func withoutPairsOf(with func(visit func(a, b int)), visit func(a, b int)) {
-	may := map[[2]int]bool{}
-	with(func(a, b int) { may[[2]int{a, b}] = true })
-	for _, row := range rowsOf(2, wrongAndRight()) {
-		if !may[[2]int(row)] {
-			visit(row[0], row[1])
-		}
-	}
-}
-
 // withoutFalls visits numbers of balls and of boxes of which one at least may not be.
 func withoutFalls(visit func(balls, boxes int)) {
 	withoutPairsOf(withFalls, visit)
